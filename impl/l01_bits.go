@@ -213,7 +213,7 @@ func clearAbove(b Bits) {
 	b.Words[last] &= ^uint64(0) >> (int64(len(b.Words))*wordBits - b.Width)
 }
 
-// putBits writes into a row that is wide enough and still 0 from the place on.
+// putBits writes into a row that is wide enough and still 0 where b comes to stand.
 func putBits(into Bits, b Bits, place int64) {
 	first, shift := place/wordBits, place%wordBits
 	for i, word := range b.Words {
