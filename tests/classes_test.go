@@ -227,7 +227,7 @@ func equalitiesOf(list []impl.Literal, ids []int64) []impl.Literal {
 	return out
 }
 
-// valuesOfAll are the rows of all values by which equalities hold.
+// valuesOfAll are the rows of all values by which literals hold.
 func valuesOfAll(decls []impl.Decl, list []impl.Literal) [][]string {
 	width := 0
 	for _, decl := range decls {
@@ -240,7 +240,7 @@ func valuesOfAll(decls []impl.Decl, list []impl.Literal) [][]string {
 			rows, all = append(rows, all[:decl.Width]), all[decl.Width:]
 		}
 		if !slices.ContainsFunc(list, func(l impl.Literal) bool {
-			return lastOf(rowsByTable(rows, l.S)) != lastOf(rowsByTable(rows, l.T))
+			return l.Equal != (lastOf(rowsByTable(rows, l.S)) == lastOf(rowsByTable(rows, l.T)))
 		}) {
 			out = append(out, rows)
 		}
