@@ -202,10 +202,12 @@ func digitBits(text string) int64 {
 	return 0
 }
 
-func topBit(b Bits) uint64 {
-	at := b.Width - 1
-	return b.Words[at/wordBits] >> (at % wordBits) & 1
-}
+func topBit(b Bits) uint64 { return bitAt(b, b.Width-1) }
+
+func bitAt(b Bits, at int64) uint64 { return b.Words[at/wordBits] >> (at % wordBits) & 1 }
+
+// setBit writes into b, so it is for rows that the program has just made.
+func setBit(b Bits, at int64) { b.Words[at/wordBits] |= 1 << (at % wordBits) }
 
 // clearAbove writes into b, so it is for rows that the program has just made.
 func clearAbove(b Bits) {
