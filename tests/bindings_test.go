@@ -41,9 +41,7 @@ func solvedByPicture(decls []impl.Decl, list []impl.Literal) ([]impl.Binding, []
 	b, _ := takenBy(list[i])
 	rest := leftOut(list, i)
 	for i, l := range rest {
-		if slices.Contains(append(varsByTable(l.S), varsByTable(l.T)...), b.Var) {
-			rest[i].S, rest[i].T = replacedByPicture(decls, l.S, b), replacedByPicture(decls, l.T, b)
-		}
+		rest[i].S, rest[i].T = replacedByPicture(decls, l.S, b), replacedByPicture(decls, l.T, b)
 		if len(rest[i].S.Nodes) > 400 || len(rest[i].T.Nodes) > 400 {
 			return nil, list
 		}
@@ -52,9 +50,10 @@ func solvedByPicture(decls []impl.Decl, list []impl.Literal) ([]impl.Binding, []
 	return append(bindings(binding(b.Var, sharedByTexts(decls, b.Term))), more...), left
 }
 
+// replacedByPicture leaves a side in which the variable does not stand as it is.
 func replacedByPicture(decls []impl.Decl, x impl.Term, b impl.Binding) impl.Term {
 	if !slices.Contains(varsByTable(x), b.Var) {
-		return sharedByTexts(decls, x)
+		return x
 	}
 	return replacedByWords(decls, x, b.Var, b.Term)
 }

@@ -60,8 +60,9 @@ func TestSolveByHand(t *testing.T) {
 	}
 }
 
-// What is bound is as Share tells it; of what is left a literal in which the
-// variable does not stand is as it was, however often its nodes stand in it.
+// What is bound is as Share tells it; of what is left a side in which the
+// variable does not stand is as it was, however often its nodes stand in it,
+// also where the variable stands in the other side.
 func TestSolveSharesWhatItChanges(t *testing.T) {
 	decls := solveDecls()
 	twice, once := term(variable(1), variable(1), cat(0, 1)), term(variable(1), cat(0, 0))
@@ -78,7 +79,11 @@ func TestSolveSharesWhatItChanges(t *testing.T) {
 		"what has it":             {[]impl.Literal{literal(1, true, term(variable(2)), term(variable(1))), literal(2, false, term(variable(2), variable(1), cat(0, 1)), term(variable(1), variable(2), cat(1, 0)))}, bindings(binding(2, term(variable(1)))), []impl.Literal{literal(2, false, once, once)}},
 		"nothing is solved":       {[]impl.Literal{literal(1, true, twice, odd), literal(3, false, odd, odd)}, nil, []impl.Literal{literal(1, true, twice, odd), literal(3, false, odd, odd)}},
 		"what is put in is ahead": {[]impl.Literal{literal(1, true, term(variable(0)), term(variable(2), variable(1), cat(0, 1))), literal(2, false, term(variable(1), variable(0), cat(0, 1)), term(constant("000000")))}, bindings(binding(0, term(variable(2), variable(1), cat(0, 1)))), []impl.Literal{literal(2, false, term(variable(2), variable(1), cat(0, 1), cat(1, 2)), term(constant("000000")))}},
-		"one side has it":         {[]impl.Literal{literal(1, true, term(variable(0)), term(variable(3))), literal(2, false, term(variable(0)), odd)}, bindings(binding(0, term(variable(3)))), []impl.Literal{literal(2, false, term(variable(3)), term(constant("01"), cat(0, 0)))}},
+		"S has it, T stays":       {[]impl.Literal{literal(1, true, term(variable(0)), term(variable(3))), literal(2, false, term(variable(0)), odd)}, bindings(binding(0, term(variable(3)))), []impl.Literal{literal(2, false, term(variable(3)), odd)}},
+		"T has it, S stays":       {[]impl.Literal{literal(1, true, term(variable(0)), term(variable(3))), literal(2, false, twice, term(variable(0)))}, bindings(binding(0, term(variable(3)))), []impl.Literal{literal(2, false, twice, term(variable(3)))}},
+		"ahead, T stays":          {[]impl.Literal{literal(5, true, twice, odd), literal(7, true, term(variable(1)), term(variable(2)))}, bindings(binding(1, term(variable(2)))), []impl.Literal{literal(5, true, term(variable(2), cat(0, 0)), odd)}},
+		"one after the other":     {[]impl.Literal{literal(1, true, term(variable(2)), term(variable(1))), literal(2, true, term(variable(0)), term(variable(3))), literal(3, false, term(variable(2), variable(2), cat(0, 1)), odd), literal(4, true, odd, term(variable(0), variable(0), cat(0, 1), part(3, 0, 2)))}, bindings(binding(2, term(variable(1))), binding(0, term(variable(3)))), []impl.Literal{literal(3, false, once, odd), literal(4, true, odd, term(variable(3), cat(0, 0), part(3, 0, 1)))}},
+		"shared when it is bound": {[]impl.Literal{literal(1, true, term(variable(0)), term(variable(3))), literal(2, true, term(variable(0)), odd)}, bindings(binding(0, term(variable(3))), binding(3, term(constant("01"), cat(0, 0)))), nil},
 	} {
 		got, left := checkSolve(t, decls, c.list)
 		if !slices.EqualFunc(got, c.want, sameBinding) || !slices.EqualFunc(left, c.left, sameLiteral) {
