@@ -95,6 +95,10 @@ func overwrite(v reflect.Value) {
 		if v.CanSet() {
 			v.SetString("spare")
 		}
+	case reflect.Bool:
+		if v.CanSet() {
+			v.SetBool(!v.Bool())
+		}
 	}
 }
 
