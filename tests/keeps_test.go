@@ -91,6 +91,10 @@ func overwrite(v reflect.Value) {
 		if v.CanSet() {
 			v.SetUint(spareWord)
 		}
+	case reflect.Uint8:
+		if v.CanSet() {
+			v.SetUint(0xee)
+		}
 	case reflect.String:
 		if v.CanSet() {
 			v.SetString("spare")
