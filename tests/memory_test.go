@@ -213,3 +213,69 @@ func TestWrongTermsAreNotWrittenInto(t *testing.T) {
 		}
 	}
 }
+
+// The promise, of the functions of words, trees, terms and values: right arguments and wrong ones.
+func TestFirstChaptersKeep(t *testing.T) {
+	d := dice{state: 2307}
+	for range 30 {
+		a, b := bitsOfRow(d.row(1+d.below(130))), bitsOfRow(d.row(1+d.below(130)))
+		n, m := int64(d.below(140)-3), int64(d.below(140)-3)
+		for _, word := range append(wrongBits(), a, b) {
+			keepsWord(t, word, b, n, m)
+		}
+		shape := thrownShape(&d, 12)
+		tree := treeOfShape(shape)
+		keepsTree(t, tree, textOfShape(shape))
+		spoil(&d, tree)
+		keepsTree(t, tree, textOfShape(shape)+")")
+		decls := someDecls()
+		x, y := thrownSides(&d, decls, 4)
+		values := valuesOfRows(thrownRows(&d, decls))
+		for _, wrong := range append(wrongTerms(x)[:3], x) {
+			keepsTerm(t, decls, values, wrong, y)
+			keepsTerm(t, decls, values[1:], y, wrong)
+		}
+		keepsTerm(t, append(decls, decls[0]), values, x, y)
+	}
+}
+
+func keepsWord(t *testing.T, a, b impl.Bits, n, m int64) {
+	t.Helper()
+	keeps(t, impl.BitsOk, a)
+	keeps(t, impl.ReadBits, impl.WriteBits(a))
+	keeps(t, impl.WriteBits, a)
+	keeps(t, impl.BitsOf, n, m)
+	keeps(t, impl.PartOf, a, n, m)
+	keeps(t, impl.JoinBits, a, b)
+	keeps(t, impl.TurnBits, a, n)
+	keeps(t, impl.RepeatBits, a, n)
+	keeps(t, impl.WidenBits, a, n, m > 60)
+	keeps(t, impl.CompareBits, a, b)
+	keeps(t, impl.NextBits, a)
+	keeps(t, impl.CountOnes, a)
+}
+
+func keepsTree(t *testing.T, tree impl.Tree, text string) {
+	t.Helper()
+	keeps(t, impl.TreeOk, tree)
+	keeps(t, impl.ReadTree, text)
+	keeps(t, impl.WriteTree, tree)
+	keeps(t, impl.DepthOf, tree)
+}
+
+func keepsTerm(t *testing.T, decls []impl.Decl, values []impl.Bits, x, y impl.Term) {
+	t.Helper()
+	l := literal(1, len(x.Nodes) > 3, x, y)
+	keeps(t, impl.DeclsOk, decls)
+	keeps(t, impl.WidthOf, decls, x)
+	keeps(t, impl.ReadTerm, decls, impl.WriteTerm(decls, x))
+	keeps(t, impl.WriteTerm, decls, x)
+	keeps(t, impl.Share, decls, x)
+	keeps(t, impl.VarsOf, decls, x)
+	keeps(t, impl.Replace, decls, x, int64(len(y.Nodes)%4), y)
+	keeps(t, impl.ValuesOk, decls, values)
+	keeps(t, impl.Eval, decls, values, x)
+	keeps(t, impl.LiteralsOk, decls, []impl.Literal{l, l})
+	keeps(t, impl.Holds, decls, values, l)
+	keeps(t, impl.FirstFails, decls, values, []impl.Literal{l})
+}
